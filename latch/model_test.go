@@ -239,7 +239,7 @@ func TestTasksAreAsTheModel(t *testing.T) {
 	}
 }
 
-// P9.3: two threads' bumps, in all orders of their steps, and three threads' in many.
+// P9.3: two threads' bumps, for all lists of 14 picks, and three threads', for many of 30; then the threads take steps in turn.
 func TestBumpsAddTheirNumber(t *testing.T) {
 	for l := range schedules(2, 14) {
 		wantBumps(t, l, []job{bumps(0, 1), bumps(0, 1)}, []job{bumps(0, 1), guards(0, 1)})
