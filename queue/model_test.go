@@ -148,7 +148,7 @@ func (x *match) finish(job *task.Task, most, want int, own []int, before rows) {
 // P10.1, P10.2, P10.3, P10.4: whatever is done to a few queues of the same threads, one after the other.
 func TestQueuesAreAsTheModel(t *testing.T) {
 	longest, found, absent, empty := 0, 0, 0, 0
-	for seed := range 150 {
+	for seed := range 80 {
 		next := mixer(uint64(seed))
 		m := mapOf(1+next(16), 1+next(3), 1+next(2))
 		x := newMatch(t, m, uint64(next(m.Threads+2)))
@@ -178,7 +178,7 @@ func TestQueuesAreAsTheModel(t *testing.T) {
 			longest = max(longest, len(x.rows[i]))
 		}
 	}
-	if longest < 10 || found < 1500 || absent < 1500 || empty < 500 {
+	if longest < 10 || found < 800 || absent < 800 || empty < 300 {
 		t.Errorf("the longest queue has %d threads, %d were found, %d not, %d times there was none", longest, found, absent, empty)
 	}
 }
@@ -204,7 +204,7 @@ func TestAllListsOfTasks(t *testing.T) {
 
 // P10.4: a long queue, of which every third thread is removed.
 func TestALongQueue(t *testing.T) {
-	m := mapOf(3000, 2, 1)
+	m := mapOf(1000, 2, 1)
 	c, at := cells.New(m.Size()), m.Wait(0)
 	var want []int
 	for i := range m.Threads {

@@ -421,7 +421,7 @@ func TestRefusedMaps(t *testing.T) {
 		mapOf(least, 1, 1), mapOf(1, least, 1), mapOf(1, 1, least), mapOf(most, 1, 1), mapOf(1, most, 1), mapOf(1, 1, most),
 		mapOf(1<<61, 1, 0), mapOf(1<<32, 1, 0), mapOf(1, 1<<32, 0), mapOf(1, 1, 1<<61),
 	} {
-		for _, at := range []int{0, 2, 8} {
+		for _, at := range []int{0, 8} {
 			wantRefused(t, refusal{c, m, at, 0}, true)
 		}
 	}
